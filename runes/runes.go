@@ -54,7 +54,7 @@ func Slice(s string, from, to int) string {
 		}
 		n++
 	}
-	return s[begin:end]
+	return strings.Clone(s[begin:end]) // an answer shares no memory with what was handed in
 }
 
 // Letter tells whether r is a letter of the language.

@@ -4,6 +4,7 @@ import (
 	"math"
 	"strings"
 	"testing"
+	"unsafe"
 )
 
 // cut parts s as the chapter says it, from the bit patterns of UTF-8 alone: the
@@ -181,6 +182,16 @@ func TestSliceIsWhole(t *testing.T) { // 1.5
 			if got := Slice(s, 0, k) + Slice(s, k, Count(s)); got != s {
 				t.Errorf("%q cut at %d: %q", s, k, got)
 			}
+		}
+	}
+}
+
+func TestNewMemory(t *testing.T) { // R4
+	s := strings.Repeat("aä", 9)
+	one, _ := At(s, 0)
+	for _, got := range []string{one, Slice(s, 0, 9), Slice(s, 0, 18)} {
+		if unsafe.StringData(got) == unsafe.StringData(s) {
+			t.Errorf("%q shares memory with what was handed in", got)
 		}
 	}
 }
