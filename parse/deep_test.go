@@ -172,7 +172,6 @@ func TestDeepFirst(t *testing.T) {
 		{exprs, strings.Repeat("a = ", 400), 800},
 		{exprs, strings.Repeat("a[", 400), 800},
 		{exprs, strings.Repeat("(", 399) + "a ? ", 401},
-		{exprs, strings.Repeat("(", 399) + "a ? ", 401},
 		{exprs, strings.Repeat("(", 399) + "- ", 399},
 		{types, strings.Repeat("(", 400), 400},
 		{types, strings.Repeat("{ a: ", 400), 1200},
@@ -183,7 +182,6 @@ func TestDeepFirst(t *testing.T) {
 		{stmts, strings.Repeat("{", 399) + "while (", 401},
 	} {
 		l := tokens(t, x.open)
-		holds(t, x.face, l, 0, "", x.place, api.ErrDeep)
 		for _, odd := range all {
 			holds(t, x.face, slices.Concat(l, []api.Token{odd}), 0, "", x.place, api.ErrDeep)
 			holds(t, x.face, slices.Concat(l, []api.Token{odd, odd, odd}), 0, "", x.place, api.ErrDeep)
@@ -204,6 +202,42 @@ func TestDeepFirst(t *testing.T) {
 	holds(t, exprs, l, 0, "", 400, api.ErrDeep)
 	holds(t, exprs, l, 1, "a", 800, api.OK)
 	holds(t, exprs, l, 400, "a", 401, api.OK)
+}
+
+// ErrDeep: behind the last token no rule begins, so a beginning that ends ahead of the token at which it would be seen is ErrSyntax, at its end.
+func TestDeepBeginnings(t *testing.T) {
+	for _, x := range []struct {
+		face face
+		each string
+		last string
+	}{
+		{exprs, "^(", "^a"}, {exprs, "^[", "^a"}, {exprs, "^a[", "^a"}, {exprs, "^f(^a~, ", "^a"}, {exprs, "^new C(", "^a"}, {exprs, "^{ a: ", "^a"}, {exprs, "^a = ", "^a"}, {exprs, "^a ? ", "^a"}, {exprs, "^a ? ^b~ : ", "^a"},
+		{exprs, "^() => ", "^a"}, {exprs, "^() => { ^return ", "^a"}, {exprs, "^function (a: ^T~): ^U~ { ^throw ", "^a"}, {exprs, "^^-(", "^a"}, {exprs, "^^typeof (", "^a"},
+		{types, "^(", "^T"}, {types, "^T | (", "^T"}, {types, "^{ a: ", "^T"}, {types, "^() => ", "^T"},
+		{stmts, "^{", "^^a"}, {stmts, "^if (^a~) {", "^^a"}, {stmts, "^if (^a~) {} else {", "^^a"}, {stmts, "^if (^a~) {} else ", "^if (^a"}, {stmts, "^while (^a~) {", "^^a"}, {stmts, "^function f(a: ^T~) {", "^let a = ^a"}, {stmts, "^{ ^{}~ ^let a = ^() => {", "^^a"},
+	} {
+		s := strings.Repeat(x.each, 401) + x.last
+		l, place := marked(t, s+strings.Repeat("~", strings.Count(s, "^")-strings.Count(s, "~")))
+		for size := range l {
+			n, at, err := x.face.call(l[:size], 0)
+			want, wantErr := size, api.ErrSyntax
+			if size > place {
+				want, wantErr = place, api.ErrDeep
+			}
+			// One that is shorter may be whole, or have brackets that are no arrow's while the => lacks.
+			short := size < place && (err == api.OK && at == size || strings.Contains(x.each, "=>"))
+			if !short && (at != want || err != wantErr || n.Kind != 0) {
+				t.Fatalf("%s of the first %d of many %s: kind %d, %d, %d; want %d, %d", x.face.name, size, x.each, n.Kind, at, err, want, wantErr)
+			}
+		}
+	}
+	for size := range 403 {
+		err := api.ErrSyntax
+		if size > 400 {
+			err = api.ErrDeep
+		}
+		holds(t, stmts, tokens(t, strings.Repeat("{", size)), 0, "", min(size, 400), err)
+	}
 }
 
 // R1: what is nested far deeper, and what is long but not deep, in the order of the bound.
