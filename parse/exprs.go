@@ -4,12 +4,13 @@ import (
 	"strings"
 
 	"gusset/api"
+	"gusset/cursor"
 )
 
 func (r *reader) anExpr() api.Node {
 	r.begin()
 	n := r.cond()
-	if r.stands("=") {
+	if r.Stands("=") {
 		n = r.assign(n)
 	}
 	r.end()
@@ -20,20 +21,20 @@ func (r *reader) anExpr() api.Node {
 func (r *reader) assign(target api.Node) api.Node {
 	switch target.Kind {
 	case api.Name, api.Member, api.Index:
-		r.at++
-		return node(api.Assign, "", target, r.anExpr())
+		r.Pass()
+		return cursor.Node(api.Assign, "", target, r.anExpr())
 	}
-	panic(r.wrong())
+	panic(r.Wrong())
 }
 
 func (r *reader) cond() api.Node {
 	n := r.binary(1)
-	if !r.take("?") {
+	if !r.Take("?") {
 		return n
 	}
 	then := r.anExpr()
-	r.want(":")
-	return node(api.Cond, "", n, then, r.anExpr())
+	r.Want(":")
+	return cursor.Node(api.Cond, "", n, then, r.anExpr())
 }
 
 // lineOf is the line of a binary operator, of which the first binds least; 0, if the token is none.
@@ -62,22 +63,22 @@ func lineOf(t api.Token) int {
 func (r *reader) binary(least int) api.Node {
 	n := r.unary()
 	for {
-		line := lineOf(r.token())
+		line := lineOf(r.Token())
 		if line < least {
 			return n
 		}
-		sign := r.pass()
+		sign := r.Pass()
 		// The right one ends ahead of the next operator of the same line: those are taken from the left on.
-		n = node(api.Binary, sign, n, r.binary(line+1))
+		n = cursor.Node(api.Binary, sign, n, r.binary(line+1))
 	}
 }
 
 func (r *reader) unary() api.Node {
-	if !r.stands("-") && !r.stands("!") && !r.standsWord("typeof") {
+	if !r.Stands("-") && !r.Stands("!") && !r.StandsWord("typeof") {
 		return r.postfix()
 	}
 	r.begin()
-	n := node(api.Unary, r.pass(), r.unary())
+	n := cursor.Node(api.Unary, r.Pass(), r.unary())
 	r.end()
 	return n
 }
@@ -86,13 +87,13 @@ func (r *reader) postfix() api.Node {
 	n := r.primary()
 	for {
 		switch {
-		case r.take("."):
-			n = node(api.Member, r.prop(), n)
-		case r.take("["):
-			n = node(api.Index, "", n, r.anExpr())
-			r.want("]")
-		case r.take("("):
-			n = node(api.Call, "", append([]api.Node{n}, r.list(")", r.anExpr)...)...)
+		case r.Take("."):
+			n = cursor.Node(api.Member, r.Prop(), n)
+		case r.Take("["):
+			n = cursor.Node(api.Index, "", n, r.anExpr())
+			r.Want("]")
+		case r.Take("("):
+			n = cursor.Node(api.Call, "", append([]api.Node{n}, r.List(")", r.anExpr)...)...)
 		default:
 			return n
 		}
@@ -100,14 +101,14 @@ func (r *reader) postfix() api.Node {
 }
 
 func (r *reader) primary() api.Node {
-	switch t := r.token(); t.Kind {
+	switch t := r.Token(); t.Kind {
 	case api.TokenNumber:
-		r.at++
+		r.Pass()
 		return api.Node{Kind: api.Num, N: t.N}
 	case api.TokenText:
-		return node(api.Text, r.pass())
+		return cursor.Node(api.Text, r.Pass())
 	case api.TokenName:
-		return node(api.Name, r.pass())
+		return cursor.Node(api.Name, r.Pass())
 	case api.TokenWord:
 		return r.wordPrimary()
 	}
@@ -117,65 +118,65 @@ func (r *reader) primary() api.Node {
 // wordPrimary reads a primary that begins with a word.
 func (r *reader) wordPrimary() api.Node {
 	switch {
-	case r.takeWord("true"):
+	case r.TakeWord("true"):
 		return api.Node{Kind: api.Bool, N: 1}
-	case r.takeWord("false"):
-		return node(api.Bool, "")
-	case r.takeWord("null"):
-		return node(api.Null, "")
-	case r.takeWord("undefined"):
-		return node(api.Undef, "")
-	case r.takeWord("this"):
-		return node(api.This, "")
-	case r.takeWord("new"):
-		class := r.id()
-		r.want("(")
-		return node(api.New, class, r.list(")", r.anExpr)...)
-	case r.takeWord("function"):
-		return node(api.Func, "", r.params(false), r.typeOrNone(), r.block())
+	case r.TakeWord("false"):
+		return cursor.Node(api.Bool, "")
+	case r.TakeWord("null"):
+		return cursor.Node(api.Null, "")
+	case r.TakeWord("undefined"):
+		return cursor.Node(api.Undef, "")
+	case r.TakeWord("this"):
+		return cursor.Node(api.This, "")
+	case r.TakeWord("new"):
+		class := r.Id()
+		r.Want("(")
+		return cursor.Node(api.New, class, r.List(")", r.anExpr)...)
+	case r.TakeWord("function"):
+		return cursor.Node(api.Func, "", r.Params(r.typeOrNone), r.typeOrNone(), r.block())
 	}
-	panic(r.wrong())
+	panic(r.Wrong())
 }
 
 // signPrimary reads a primary that begins with a sign.
 func (r *reader) signPrimary() api.Node {
 	switch {
-	case r.take("["):
-		return node(api.Array, "", r.list("]", r.anExpr)...)
-	case r.take("{"):
-		return node(api.Object, "", r.list("}", r.objectProp)...)
-	case r.stands("(") && r.beforeArrow():
+	case r.Take("["):
+		return cursor.Node(api.Array, "", r.List("]", r.anExpr)...)
+	case r.Take("{"):
+		return cursor.Node(api.Object, "", r.List("}", r.objectProp)...)
+	case r.Stands("(") && r.beforeArrow():
 		return r.arrow()
-	case r.take("("):
+	case r.Take("("):
 		n := r.anExpr()
-		r.want(")")
+		r.Want(")")
 		return n
 	}
-	panic(r.wrong())
+	panic(r.Wrong())
 }
 
 func (r *reader) objectProp() api.Node {
-	alone := r.standsId()
-	name := r.prop()
-	if r.take(":") {
-		return node(api.Prop, name, r.anExpr())
+	alone := r.StandsId()
+	name := r.Prop()
+	if r.Take(":") {
+		return cursor.Node(api.Prop, name, r.anExpr())
 	}
 	if !alone {
-		panic(r.wrong())
+		panic(r.Wrong())
 	}
-	return node(api.Prop, name, node(api.Name, strings.Clone(name)))
+	return cursor.Node(api.Prop, name, cursor.Node(api.Name, strings.Clone(name)))
 }
 
 func (r *reader) arrow() api.Node {
-	params := r.params(false)
-	r.want("=>")
-	return node(api.Func, "", params, node(api.None, ""), r.arrowBody())
+	params := r.Params(r.typeOrNone)
+	r.Want("=>")
+	return cursor.Node(api.Func, "", params, cursor.Node(api.None, ""), r.arrowBody())
 }
 
 // arrowBody reads a Block wherever a { stands: an Object there needs brackets.
 func (r *reader) arrowBody() api.Node {
-	if r.stands("{") {
+	if r.Stands("{") {
 		return r.block()
 	}
-	return node(api.Block, "", node(api.Return, "", r.anExpr()))
+	return cursor.Node(api.Block, "", cursor.Node(api.Return, "", r.anExpr()))
 }

@@ -10,6 +10,10 @@ import (
 	"gusset/tree"
 )
 
+func node(kind int, text string, kids ...api.Node) api.Node {
+	return api.Node{Kind: kind, Text: text, Kids: kids}
+}
+
 // A maker makes trees and sources that say them, in one of many ways.
 type maker struct {
 	*rand.Rand

@@ -1,11 +1,14 @@
 package parse
 
-import "gusset/api"
+import (
+	"gusset/api"
+	"gusset/cursor"
+)
 
 func (r *reader) aType() api.Node {
 	r.begin()
 	var l []api.Node
-	for more := true; more; more = r.take("|") {
+	for more := true; more; more = r.Take("|") {
 		n := r.postType()
 		if n.Kind == api.TypeUnion {
 			l = append(l, n.Kids...)
@@ -17,58 +20,62 @@ func (r *reader) aType() api.Node {
 	if len(l) == 1 {
 		return l[0]
 	}
-	return node(api.TypeUnion, "", l...)
+	return cursor.Node(api.TypeUnion, "", l...)
 }
 
-// typeOrNone reads a : and a Type, or nothing, which is a None.
+// typing reads a : and a Type.
+func (r *reader) typing() api.Node {
+	r.Want(":")
+	return r.aType()
+}
+
+// typeOrNone reads the same, or nothing, which is a None.
 func (r *reader) typeOrNone() api.Node {
-	if r.take(":") {
-		return r.aType()
+	if r.Stands(":") {
+		return r.typing()
 	}
-	return node(api.None, "")
+	return cursor.Node(api.None, "")
 }
 
 func (r *reader) postType() api.Node {
 	n := r.primType()
-	for r.take("[") {
-		r.want("]")
-		n = node(api.TypeArray, "", n)
+	for r.Take("[") {
+		r.Want("]")
+		n = cursor.Node(api.TypeArray, "", n)
 	}
 	return n
 }
 
 func (r *reader) primType() api.Node {
 	switch {
-	case r.standsId(), r.standsWord("null"), r.standsWord("undefined"):
-		return node(api.TypeName, r.pass())
-	case r.take("{"):
+	case r.StandsId(), r.StandsWord("null"), r.StandsWord("undefined"):
+		return cursor.Node(api.TypeName, r.Pass())
+	case r.Take("{"):
 		return r.objectType()
-	case r.stands("(") && r.beforeArrow():
+	case r.Stands("(") && r.beforeArrow():
 		return r.funcType()
-	case r.take("("):
+	case r.Take("("):
 		n := r.aType()
-		r.want(")")
+		r.Want(")")
 		return n
 	}
-	panic(r.wrong())
+	panic(r.Wrong())
 }
 
 // objectType reads what stands behind the { of a TypeObject.
 func (r *reader) objectType() api.Node {
 	var l []api.Node
-	known := names{}
-	for !r.take("}") {
-		r.add(known)
-		name := r.prop()
-		r.want(":")
-		l = append(l, node(api.TypeProp, name, r.aType()))
-		r.want(";")
+	known := cursor.Names{}
+	for !r.Take("}") {
+		r.Add(known)
+		l = append(l, cursor.Node(api.TypeProp, r.Prop(), r.typing()))
+		r.Want(";")
 	}
-	return node(api.TypeObject, "", l...)
+	return cursor.Node(api.TypeObject, "", l...)
 }
 
 func (r *reader) funcType() api.Node {
-	params := r.params(true)
-	r.want("=>")
-	return node(api.TypeFunc, "", params, r.aType())
+	params := r.Params(r.typing)
+	r.Want("=>")
+	return cursor.Node(api.TypeFunc, "", params, r.aType())
 }
