@@ -16,17 +16,16 @@ type module struct {
 	mod      int
 	spots    []spot
 	uses     []api.Use
-	assigned []bool     // by declarations: whether an Assign has it as its target
-	given    []api.Type // by places: what the walk gave to expressions; nothing, where it has not come yet
-	read     []reading  // by places: what trees of types say, as far as they were asked for
-	said     []api.Type // by declarations: their types, as far as they were asked for
+	assigned []bool           // by declarations: whether an Assign has it as its target
+	given    []api.Type       // by places: what the walk gave to expressions; nothing, where it has not come yet
+	read     map[int]reading  // by places: what trees of types say, as far as they were asked for
+	said     map[int]api.Type // by declarations: their types, as far as they were asked for
 }
 
 // A reading is what sign.Type told of a tree.
 type reading struct {
-	asked bool
-	says  api.Type
-	err   api.Errno
+	says api.Type
+	err  api.Errno
 }
 
 // named is a use of a name. It is early, if the name is of a Let without a type of which not all stands ahead of the use.
@@ -36,14 +35,13 @@ type named struct {
 }
 
 func newModule(p *program, mod int) *module {
-	m := &module{program: p, mod: mod, spots: spotsOf(&p.linked.Graph.Mods[mod].Tree)}
+	m := &module{program: p, mod: mod, read: map[int]reading{}, said: map[int]api.Type{}}
+	m.spots = spotsOf(&p.linked.Graph.Mods[mod].Tree)
 	if mod < len(p.linked.Scopes) {
 		m.uses = p.linked.Scopes[mod].Uses
 	}
 	m.assigned = make([]bool, len(m.spots))
 	m.given = make([]api.Type, len(m.spots))
-	m.read = make([]reading, len(m.spots))
-	m.said = make([]api.Type, len(m.spots))
 	m.markAssigned()
 	return m
 }
@@ -84,10 +82,12 @@ func (m *module) seen(n named) api.Type {
 	if n.early {
 		return anything()
 	}
-	if m.said[n.Decl].Kind == 0 {
-		m.said[n.Decl] = m.declared(n.Use)
+	t, asked := m.said[n.Decl]
+	if !asked {
+		t = m.declared(n.Use)
+		m.said[n.Decl] = t
 	}
-	return m.said[n.Decl]
+	return t
 }
 
 // this is asked within classes alone.
@@ -121,10 +121,10 @@ func (m *module) declared(u api.Use) api.Type {
 
 // typeAt is what the type's tree at a place says.
 func (m *module) typeAt(at int) (api.Type, api.Errno) {
-	r := &m.read[at]
-	if !r.asked {
-		r.asked = true
+	r, asked := m.read[at]
+	if !asked {
 		r.says, r.err = sign.Type(m.linked, m.signs, m.mod, *m.node(at))
+		m.read[at] = r
 	}
 	return r.says, r.err
 }

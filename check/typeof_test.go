@@ -72,7 +72,17 @@ func TestTypeOfErrors(t *testing.T) {
 	if got, err := TypeOf(l, s, 0, placeOf(t, l, 0, "1")); err != api.ErrComplex || !isZero(got) {
 		t.Error(got, err)
 	}
-	// A place that is none is told ahead of that.
+	// A place that is none is told ahead of that; so are the names of imports and exports.
+	l, s = linked(t, "import { x as y } from './b'; export { y as z }; export { x as w } from './b'; -'';", "export const x: number = 1;")
+	for at, n := range tree.All(l.Graph.Mods[0].Tree) {
+		want := api.ErrArg
+		if text := textOf(n); text == `-""` || text == `""` {
+			want = api.ErrType
+		}
+		if got, err := TypeOf(l, s, 0, at); err != want || !isZero(got) {
+			t.Error(at, got, err)
+		}
+	}
 	if got, err := TypeOf(l, s, 0, 0); err != api.ErrArg || !isZero(got) {
 		t.Error(got, err)
 	}

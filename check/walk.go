@@ -143,12 +143,12 @@ func (w *walk) function(at int, v view) api.Type {
 	return t
 }
 
-// ctor walks a Ctor, in which a Return need not fit anything.
+// ctor walks a Ctor. A Return in it need not fit anything, for a class stands in no function.
 func (w *walk) ctor(at int, v view) {
 	for _, tree := range w.typesOfParams(w.kid(at, 0)) {
 		w.typed(tree)
 	}
-	w.list(w.kid(at, 1), &functionView{view: v})
+	w.list(w.kid(at, 1), v)
 }
 
 func (w *walk) class(at int, v view) {
